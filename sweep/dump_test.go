@@ -1,0 +1,82 @@
+package sweep_test
+
+import (
+	"fmt"
+	"reflect"
+	"runtime"
+	"strconv"
+)
+
+// dumper writes down all that things hold, in the packages below too: two runs that are dumped alike go on alike. Counts of accesses and locks are left out.
+type dumper struct {
+	text []byte
+	seen map[uintptr]int // pointers that were met, by the order in which they were
+}
+
+func dump(things ...any) string {
+	d := &dumper{seen: map[uintptr]int{}}
+	for _, x := range things {
+		d.value(reflect.ValueOf(x))
+		d.text = append(d.text, '\n')
+	}
+	return string(d.text)
+}
+
+func (d *dumper) value(v reflect.Value) {
+	switch v.Kind() {
+	case reflect.Invalid:
+		d.text = append(d.text, '-')
+	case reflect.Bool:
+		d.text = strconv.AppendBool(d.text, v.Bool())
+	case reflect.Int, reflect.Int8, reflect.Int16, reflect.Int32, reflect.Int64:
+		d.text = strconv.AppendInt(d.text, v.Int(), 10)
+	case reflect.Uint, reflect.Uint8, reflect.Uint16, reflect.Uint32, reflect.Uint64:
+		d.text = strconv.AppendUint(d.text, v.Uint(), 10)
+	case reflect.String:
+		d.text = strconv.AppendQuote(d.text, v.String())
+	case reflect.Func:
+		if !v.IsNil() {
+			d.text = append(d.text, runtime.FuncForPC(v.Pointer()).Name()...)
+		}
+	case reflect.Interface:
+		d.value(v.Elem())
+	case reflect.Pointer:
+		d.pointer(v)
+	case reflect.Array, reflect.Slice:
+		for i := range v.Len() {
+			d.value(v.Index(i))
+		}
+	case reflect.Struct:
+		d.fields(v)
+	default:
+		panic(fmt.Sprint("no way to write down a ", v.Type()))
+	}
+	d.text = append(d.text, ' ')
+}
+
+func (d *dumper) pointer(v reflect.Value) {
+	if v.IsNil() {
+		d.text = append(d.text, '-')
+		return
+	}
+	if n, ok := d.seen[v.Pointer()]; ok {
+		d.text = append(d.text, '#')
+		d.text = strconv.AppendInt(d.text, int64(n), 10)
+		return
+	}
+	d.seen[v.Pointer()] = len(d.seen)
+	d.value(v.Elem())
+}
+
+func (d *dumper) fields(v reflect.Value) {
+	if v.Type().PkgPath() == "sync" {
+		return
+	}
+	for i := range v.NumField() {
+		switch v.Type().Field(i).Name {
+		case "accesses", "misses", "_":
+		default:
+			d.value(v.Field(i))
+		}
+	}
+}
