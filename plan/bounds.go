@@ -121,17 +121,15 @@ func mirrored(op int) int {
 	return op
 }
 
-// sided tells what an operation says of a column on its left, against a plain value.
+// sided tells what an operation says of a column on its left, against a plain value; of others than =, <, <=, > and >= nothing is asked.
 func sided(x infix) []claim {
 	c, is := x.left.(column)
 	value, plain := plainValue(x.right)
-	if !is || !plain || !isRange(x.op) {
+	if !is || !plain {
 		return nil
 	}
 	return []claim{{c.name, x.op, value}}
 }
-
-func isRange(op int) bool { return op == api.ExEq || op >= api.ExLt && op <= api.ExGe }
 
 // plainValue tells a value that is written out.
 func plainValue(n node) (api.Value, bool) {

@@ -88,7 +88,7 @@ func chapterTable(t *testing.T) api.Table {
 	return define(t, "CREATE TABLE t (a INT, b TEXT, c BOOL NOT NULL, PRIMARY KEY (b, a))", 7)
 }
 
-// rand is an engine with room.
+// roomyEngine is one in which nothing gets full.
 func roomyEngine(t *testing.T, sessions int) *engine.Engine {
 	t.Helper()
 	return engineOf(t, api.Config{Slots: 400, Buckets: 4, TxSlots: 16, Sessions: sessions})
