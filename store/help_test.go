@@ -154,9 +154,12 @@ func wholeDump(d *redo.Device) string {
 }
 
 // maker makes things up.
-type maker struct{ *rand.Rand }
+type maker struct {
+	*rand.Rand
+	seed int64
+}
 
-func newMaker(seed int64) *maker { return &maker{rand.New(rand.NewSource(seed))} }
+func newMaker(seed int64) *maker { return &maker{rand.New(rand.NewSource(seed)), seed} }
 
 // one is true one time in n.
 func (m *maker) one(n int) bool { return m.Intn(n) == 0 }
