@@ -129,6 +129,41 @@ func TestCheckpointCut(t *testing.T) {
 	}
 }
 
+// P17.4, P17.9, P17.10: the power is cut at every place of the other commands that write: all calls of the device ahead of the last one that they need bring the store down; what is acknowledged is back behind a crash.
+func TestCutEverywhere(t *testing.T) {
+	setup := chapterSetup()
+	setup.Segment, setup.Batch = 256, 2
+	for command, c := range map[string]struct {
+		calls int
+		code  api.Errno
+	}{
+		"FLUSH": {7, api.ErrHalt}, // an end, its sync; a segment, its head, its sync, the directory; the frame
+		"SYNC":  {8, api.ErrHalt},
+		"@1 UPDATE t SET v = 7 WHERE k = 1; DRAIN":      {7, api.ErrHalt},
+		"@1 UPDATE t SET v = 7 WHERE k = 1; PLAY x'80'": {7, api.ErrHalt},
+		"RESTART": {6, api.ErrPower}, // two segments are synced; a segment, its head, its sync, the directory
+	} {
+		for calls := 0; ; calls++ {
+			s := made(t, setup)
+			do(t, s, table+strings.Repeat("@1 INSERT INTO t VALUES (1, 1), (2, 2); @1 DELETE FROM t; DRAIN; SYNC; ", 5)+"@1 INSERT INTO t VALUES (1, 1), (2, 2); @1 UPDATE t SET v = 2; DRAIN;")
+			want(t, "two segments", len(s.Device().List()), 2)
+			rs := do(t, s, fmt.Sprintf("CUT %d; @2 BEGIN; %s;", calls, command))
+			own := rs[len(rs)-1]
+			if own.Code == api.OK {
+				want(t, "P17.10: how many calls "+command+" makes", calls, c.calls)
+				break
+			}
+			lost := rs[len(rs)-2]
+			want(t, fmt.Sprintf("P17.10: %s, cut behind %d calls", command, calls), list(own.Code, own.Numbers, s.Down()), list(c.code, []int(nil), true))
+			if own.Kind != api.CmDrain {
+				want(t, "P17.10: what is lost", list(lost.Kind, lost.Who, lost.Code), list(api.CmStmt, 2, api.ErrDown))
+			}
+			do(t, s, "CRASH; RESTART;")
+			want(t, "P0.5: rows behind a crash", len(s.Rows()), 3)
+		}
+	}
+}
+
 // crashes tells all devices that a crash may leave of one: each directory, and of each file each beginning of what is not durable, the others keeping nothing or all.
 func crashes(d *redo.Device, each func(*redo.Device)) {
 	for dir := range d.Changes() + 1 {
@@ -184,6 +219,11 @@ func TestCheckpointCrash(t *testing.T) {
 			}
 			if got := fmt.Sprint(plainRows(r.Rows())); got != all && (calls >= firstCalls || got != less) {
 				fault = fmt.Sprintf("P0.5: rows behind %d calls: %s\nwant\n%s\nor\n%s", calls, got, less, all)
+			}
+			rows := fmt.Sprint(r.Rows())
+			rs, _, _ := r.Do("RESTART; RESTART; CRASH; RESTART;")
+			if fmt.Sprint(r.Rows()) != rows || fmt.Sprint(rs[0].Numbers) != fmt.Sprint(rs[1].Numbers) || fmt.Sprint(rs[1].Numbers) != fmt.Sprint(rs[3].Numbers) {
+				fault = fmt.Sprintf("P17.9: restarts in a row: %+v", rs)
 			}
 		})
 		if tried < 2 {
