@@ -179,7 +179,7 @@ func (h *house) take(c *client, r api.Reply) {
 	}
 	switch {
 	case r.Code != api.OK:
-		if r.Code != api.ErrNoTx && r.Code != api.ErrDown && r.Result.End != api.EndAbort {
+		if c.open.begin != 0 && r.Code != api.ErrDown && r.Result.End != api.EndAbort {
 			h.fault = fmt.Sprintf("P16.10: an error and no end: %+v", r)
 		}
 		c.open = nil

@@ -168,14 +168,14 @@ func TestCutEverywhere(t *testing.T) {
 func crashes(d *redo.Device, each func(*redo.Device)) {
 	for dir := range d.Changes() + 1 {
 		whole := d.Copy()
-		whole.Crash(dir, many(64, 1<<30)...)
+		whole.Crash(dir, many(api.MaxFiles, 1<<30)...)
 		bare := d.Copy()
 		bare.Crash(dir)
 		least := bare.List()
 		for i, f := range whole.List() {
 			for keep := range f.Size - least[i].Size + 1 {
 				for _, others := range []int{0, 1 << 30} {
-					keeps := many(64, others)
+					keeps := many(len(least), others)
 					keeps[i] = keep
 					c := d.Copy()
 					c.Crash(dir, keeps...)
